@@ -682,11 +682,32 @@ func TestFullNearTheGreatest(t *testing.T) {
 				expectFull(t, num%window, n, largest, true, num)
 			}
 		}
-		// The nearest one, though no packet has it.
+		// What is past MaxVar from the beginning stays there, though no packet has it.
 		expectFull(t, 0, n, api.MaxVar, true, api.MaxVar+1)
-		expectFull(t, 0, n, api.MaxVar-1, true, api.MaxVar+1)
 		expectFull(t, half, n, api.MaxVar, true, api.MaxVar+1+half)
 		expectFull(t, half+1, n, api.MaxVar, true, api.MaxVar+2-half)
+	}
+}
+
+func TestFullIsNotRaisedPastTheGreatest(t *testing.T) {
+	for n := 1; n <= 4; n++ {
+		window := uint64(1) << (8 * n)
+		half := window / 2
+		// The numbers of the last window stay in it, however far above them the next one is.
+		last := api.MaxVar + 1 - window
+		for _, largest := range []uint64{api.MaxVar - 1, api.MaxVar - 2, api.MaxVar - half/2, api.MaxVar - half} {
+			for _, cut := range []uint64{0, 1, half - 2, half - 1, half, half + 1, window - 1} {
+				expectFull(t, cut, n, largest, true, last+cut)
+				expectFull(t, cut+7*window, n, largest, true, last+cut)
+			}
+		}
+		// The window ahead of it is raised into it, as all are.
+		expectFull(t, 0, n, last-1, true, last)
+		expectFull(t, 0, n, last-2, true, last)
+		expectFull(t, 0, n, last-half-1, true, last)
+		expectFull(t, 0, n, last-half-2, true, last-window)
+		expectFull(t, half-1, n, last-2, true, last+half-1)
+		expectFull(t, half, n, last-2, true, last-half)
 	}
 }
 
@@ -696,10 +717,10 @@ func TestFullIsTheNearest(t *testing.T) {
 			largest := around + 17*step
 			next := largest + 1
 			for cut := range uint64(256) {
-				// All numbers of that last byte, from far below on; a tie goes to the greater one.
+				// All numbers of that last byte that packets may have, from far below on; a tie goes to the greater one.
 				best, least := cut, uint64(math.MaxUint64)
 				low := max(next, 512) - 512
-				for num := low&^255 | cut; num <= next+512; num += 256 {
+				for num := low&^255 | cut; num <= min(next+512, api.MaxVar); num += 256 {
 					if far := max(num, next) - min(num, next); far <= least {
 						best, least = num, far
 					}
